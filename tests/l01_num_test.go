@@ -187,6 +187,7 @@ func prefixOf(s string, encodings map[string]int) (int, int) {
 }
 
 func TestP1ReadVarAcceptsNothingElse(t *testing.T) {
+	t.Parallel()
 	encodings := map[string]int{}
 	for n := range 1 << 14 {
 		encodings[impl.Var(n)] = n

@@ -714,6 +714,7 @@ func TestP4SpellOfManyTokens(t *testing.T) {
 }
 
 func TestP4PairsAndTriplesAreReadBack(t *testing.T) {
+	t.Parallel()
 	l := sampleTokens()
 	count := 0
 	for _, a := range l {
@@ -746,6 +747,7 @@ func followers(l []impl.Token, previous int) []impl.Token {
 }
 
 func TestP4LongListsAreReadBack(t *testing.T) {
+	t.Parallel()
 	random := rand.New(rand.NewPCG(5, 4))
 	samples := sampleTokens()
 	may := map[int][]impl.Token{}

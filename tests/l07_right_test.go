@@ -422,6 +422,7 @@ func strangeTexts() []string {
 }
 
 func TestP5FieldsOfEachKindAndText(t *testing.T) {
+	t.Parallel()
 	c := newRightCheck()
 	for _, kind := range nodeKindsAround() {
 		ops := map[int]bool{0: true}
@@ -612,6 +613,7 @@ func (c rightCheck) checkPlaces(t *testing.T, n impl.Node, letters string) {
 // TestP5AllKidsOfEachNode has each choice of kids of up to three kinds, and of four
 // among a few.
 func TestP5AllKidsOfEachNode(t *testing.T) {
+	t.Parallel()
 	c := newRightCheck()
 	few := []int{impl.EName, impl.ENum, impl.ENone, impl.SNext, impl.SBlock, impl.SComment, impl.IBegin}
 	for _, kind := range validKinds() {
@@ -776,6 +778,7 @@ func changeNode(random *rand.Rand, n *impl.Node) {
 }
 
 func TestP5RandomValidTrees(t *testing.T) {
+	t.Parallel()
 	random := rand.New(rand.NewPCG(7, 5))
 	m := newNodeMaker(random)
 	kinds := validKinds()

@@ -289,6 +289,7 @@ func TestP6LevelOfOtherNodesIgnoresTheOp(t *testing.T) {
 // TestP6ValidExpressionsHaveALevel has valid nodes of each kind and random trees:
 // exactly the expressions have a level, so that each of them fits some position.
 func TestP6ValidExpressionsHaveALevel(t *testing.T) {
+	t.Parallel()
 	c := newLevelCheck()
 	m := newNodeMaker(rand.New(rand.NewPCG(8, 6)))
 	seen := map[int]bool{}

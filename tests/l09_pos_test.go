@@ -286,6 +286,7 @@ func TestP6FitsExamples(t *testing.T) {
 }
 
 func TestP6FitsOfEachNodeAndPosition(t *testing.T) {
+	t.Parallel()
 	c := newPosCheck()
 	positions := somePositions()
 	for kind := -3; kind <= 50; kind++ {
@@ -378,6 +379,7 @@ func checkFitsFreer(t *testing.T, n impl.Node, p impl.Pos) {
 }
 
 func TestP6WhatFitsAPositionFitsTop(t *testing.T) {
+	t.Parallel()
 	for _, n := range expressionHeads() {
 		if !impl.Fits(n, impl.Top()) {
 			t.Errorf("%s does not fit Top", headShown(n))
@@ -467,6 +469,7 @@ func TestP6KidPosExamples(t *testing.T) {
 // TestP6KidPosOfEachNode has each kind with each number of kids, from none to more
 // than a valid node has, each kid and each position.
 func TestP6KidPosOfEachNode(t *testing.T) {
+	t.Parallel()
 	c := newPosCheck()
 	var heads []impl.Node
 	for kind := -3; kind <= 50; kind++ {
@@ -708,6 +711,7 @@ func checkForbidden(t *testing.T, l []impl.Node, p impl.Pos) {
 
 // TestP6ForbiddenOnlyInsideBrackets has random expressions at all valid positions.
 func TestP6ForbiddenOnlyInsideBrackets(t *testing.T) {
+	t.Parallel()
 	m := newNodeMaker(rand.New(rand.NewPCG(9, 7)))
 	for round := range 3000 {
 		l := m.tree(1+round%15, 1+round%30, 2+round%12)
@@ -740,6 +744,7 @@ func smallExpressions(kids [][]impl.Node) [][]impl.Node {
 // TestP6SmallExpressionsForbidden has all small expressions of two levels, and some
 // of three.
 func TestP6SmallExpressionsForbidden(t *testing.T) {
+	t.Parallel()
 	x, ere := single(impl.EName, "x"), single(impl.EEre, "/a/")
 	two := smallExpressions([][]impl.Node{x, ere})
 	kids := [][]impl.Node{

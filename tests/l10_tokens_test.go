@@ -666,6 +666,7 @@ func sampleExpressions() [][]impl.Node {
 }
 
 func TestP8EachKindAsAWholeAndAsEachKid(t *testing.T) {
+	t.Parallel()
 	c := newTokensCheck()
 	samples, positions := sampleExpressions(), validPositions()
 	seen := map[int]bool{}
@@ -773,6 +774,7 @@ func TestP8LargeAndDeepTrees(t *testing.T) {
 }
 
 func TestP8RandomTreesAtRandomPositions(t *testing.T) {
+	t.Parallel()
 	c := newTokensCheck()
 	random := rand.New(rand.NewPCG(10, 8))
 	m := newNodeMaker(random)
@@ -986,6 +988,7 @@ func TestP8CountsOfShortLists(t *testing.T) {
 // TestP8CountsOfAnyTokens has tokens of all kinds and of none, with texts that do
 // not go with their kinds.
 func TestP8CountsOfAnyTokens(t *testing.T) {
+	t.Parallel()
 	random := rand.New(rand.NewPCG(10, 10))
 	kinds := append(nodeKindsAround(), 1<<32+impl.TkLParen, 1<<32+impl.TkRParen, 256+impl.TkFunc, -impl.TkLParen)
 	texts := []string{"", "(", ")", "[", "]", "{", "}", "f", "length", "x"}
@@ -1102,6 +1105,7 @@ func TestP6ForbiddenExprTokensExamples(t *testing.T) {
 }
 
 func TestP6ForbiddenExprTokensOfRandomTrees(t *testing.T) {
+	t.Parallel()
 	m := newNodeMaker(rand.New(rand.NewPCG(10, 6)))
 	for round := range 1500 {
 		l := m.tree(1+round%15, 1+round%30, 2+round%12)
@@ -1114,6 +1118,7 @@ func TestP6ForbiddenExprTokensOfRandomTrees(t *testing.T) {
 // TestP6ForbiddenExprTokensOfSmallExpressions has each sample as the only other kid
 // of each expression.
 func TestP6ForbiddenExprTokensOfSmallExpressions(t *testing.T) {
+	t.Parallel()
 	for _, sample := range sampleExpressions() {
 		for _, l := range smallExpressions([][]impl.Node{nameTree("x"), sample}) {
 			for _, p := range validPositions() {
