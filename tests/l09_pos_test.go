@@ -721,24 +721,31 @@ func TestP6ForbiddenOnlyInsideBrackets(t *testing.T) {
 	}
 }
 
-// smallExpressions has the expressions of each kind and Op, with each choice of the
-// given expressions as kids (up to three in a list).
-func smallExpressions(kids [][]impl.Node) [][]impl.Node {
+// treesOver has the trees of these roots with each choice of the given trees as kids
+// (up to three in a list).
+func treesOver(roots []impl.Node, kids [][]impl.Node) [][]impl.Node {
 	var all [][]impl.Node
-	choices := kidChoices(0, len(kids)-1, 3)
-	for _, n := range expressionHeads() {
-		n.Text = rightTexts(nodeRules()[n.Kind].text)[0]
-		for _, choice := range choices {
+	for _, root := range roots {
+		for _, choice := range kidChoices(0, len(kids)-1, 3) {
 			var subtrees [][]impl.Node
 			for _, k := range choice {
 				subtrees = append(subtrees, kids[k])
 			}
-			if l := joined(n, subtrees...); impl.TreeOk(l) {
-				all = append(all, l)
+			if x := joined(root, subtrees...); impl.ExprOk(x) {
+				all = append(all, x)
 			}
 		}
 	}
 	return all
+}
+
+// smallExpressions has the expressions of each kind and Op over these kids.
+func smallExpressions(kids [][]impl.Node) [][]impl.Node {
+	heads := expressionHeads()
+	for i, n := range heads {
+		heads[i].Text = rightTexts(nodeRules()[n.Kind].text)[0]
+	}
+	return treesOver(heads, kids)
 }
 
 // TestP6SmallExpressionsForbidden has all small expressions of two levels, and some

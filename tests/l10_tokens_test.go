@@ -166,10 +166,12 @@ type tokensCheck struct {
 	right     rightCheck
 	pieces    map[int][]piece
 	spellings map[int]string
+	more      func() int // pairs of parentheses that need not be
 }
 
 func newTokensCheck() tokensCheck {
-	return tokensCheck{newPosCheck(), newRightCheck(), piecesWanted(), spellingsWanted()}
+	none := func() int { return 0 }
+	return tokensCheck{newPosCheck(), newRightCheck(), piecesWanted(), spellingsWanted(), none}
 }
 
 func (c tokensCheck) exprWanted(l []impl.Node) bool {
@@ -186,10 +188,18 @@ func enclosed(l []impl.Token) []impl.Token {
 func (c tokensCheck) at(l []impl.Node, i int, p impl.Pos, full bool) []impl.Token {
 	kind := l[i].Kind
 	primary := slices.Contains([]int{impl.EName, impl.ENum, impl.EStr, impl.EIndex, impl.ECall, impl.EBuiltin}, kind)
+	pairs := c.more()
 	if full && !primary || !full && !c.pos.fitsWanted(l[i], p) {
-		return enclosed(c.inner(l, i, impl.Pos{Level: 1}, full))
+		pairs++
 	}
-	return c.inner(l, i, p, full)
+	if pairs == 0 {
+		return c.inner(l, i, p, full)
+	}
+	tokens := c.inner(l, i, impl.Pos{Level: 1}, full)
+	for range pairs {
+		tokens = enclosed(tokens)
+	}
+	return tokens
 }
 
 // inner has the tokens of node i at a position where it has no parentheses.
@@ -819,17 +829,11 @@ func checkNone(t *testing.T, l []impl.Node) {
 	}
 }
 
-func TestP8TreesThatAreNoExpressions(t *testing.T) {
-	c := newTokensCheck()
-	for _, kind := range nodeKindsAround() {
-		if l := smallest(c.right, kind); kind < impl.EName || kind > impl.EAssign {
-			checkNone(t, l)
-		} else if len(impl.ExprTokens(l, impl.Top())) == 0 || len(impl.FullTokens(l)) == 0 {
-			t.Errorf("no tokens of %s", nodesShown(l))
-		}
-	}
+// noExpressions has lists of nodes that are no trees, or not valid ones, or no
+// expressions.
+func noExpressions() [][]impl.Node {
 	x, one := nameTree("x"), numTree("1")
-	for _, l := range [][]impl.Node{
+	return [][]impl.Node{
 		nil, {}, {{}}, ruleExample(), ruleExample()[1:3], ruleExample()[:2], ruleExample()[:4], ruleExample()[:5], append(nameTree("x"), nameTree("y")...),
 		{{Kind: impl.EUnary, Op: impl.TkSub, Kids: []int{0}}}, {{Kind: impl.EField, Kids: []int{-1}}}, {{Kind: impl.EName, Text: "x", Kids: []int{0}}},
 		{x[0], one[0], {Kind: impl.EBin, Op: impl.TkAdd, Kids: []int{1, 0}}}, {x[0], one[0], {Kind: impl.EBin, Op: impl.TkAdd, Kids: []int{1, 1}}},
@@ -840,7 +844,19 @@ func TestP8TreesThatAreNoExpressions(t *testing.T) {
 		assignTree(impl.TkAssign, one, x), assignTree(impl.TkEq, x, one), preTree(impl.TkIncr, one), postTree(impl.TkDecr, postTree(impl.TkDecr, x)),
 		inTree("a"), inTree("a", x, x, x, x, x, x, x), inTree("if", x), indexTree("x"), indexTree("x", x, x, x, x, x, x, x), callTree("f", x, x, x, x, x, x, x), callTree("sin", x),
 		builtinTree("f", x), builtinTree("int", x, x, x, x, x, x, x), {{Kind: impl.EName, Text: "x", Other: "y"}}, {{Kind: impl.EName, Text: "x", Op: 1}},
-	} {
+	}
+}
+
+func TestP8TreesThatAreNoExpressions(t *testing.T) {
+	c := newTokensCheck()
+	for _, kind := range nodeKindsAround() {
+		if l := smallest(c.right, kind); kind < impl.EName || kind > impl.EAssign {
+			checkNone(t, l)
+		} else if len(impl.ExprTokens(l, impl.Top())) == 0 || len(impl.FullTokens(l)) == 0 {
+			t.Errorf("no tokens of %s", nodesShown(l))
+		}
+	}
+	for _, l := range noExpressions() {
 		checkNone(t, l)
 	}
 }

@@ -838,33 +838,48 @@ func pairWanted(first, second string, a, b int, groups byte) (string, bool) {
 	return "( a " + first + " b )", false
 }
 
-func TestP7EachOperatorBesideEachOther(t *testing.T) {
-	count := 0
+// opPair is two operators with the tree of a op b next c, and whether this is all of
+// it.
+type opPair struct {
+	op, next int
+	tree     string
+	all      bool
+}
+
+func opPairs() []opPair {
+	var l []opPair
 	sides := "llnnlllr"
 	bins := binsWanted()
 	for i, row := range bins {
 		for k, other := range bins {
 			for _, op := range row.ops {
 				for _, next := range other.ops {
-					first, second := spelledOp(op), spelledOp(next)
-					tree, all := pairWanted(first, second, i, k, sides[i])
-					want := exprCase{"a " + first + " b " + second + " c", tree, len(codeOf("a " + first + " b"))}
-					if all {
-						want.count = len(codeOf(want.text))
-					}
-					left, right := "( a "+first+" b ) "+second+" c", "a "+first+" ( b "+second+" c )"
-					checkExprs(t, impl.Top(), []exprCase{
-						want,
-						{left, "( ( a " + first + " b ) " + second + " c )", len(codeOf(left))},
-						{right, "( a " + first + " ( b " + second + " c ) )", len(codeOf(right))},
-					})
-					count++
+					tree, all := pairWanted(spelledOp(op), spelledOp(next), i, k, sides[i])
+					l = append(l, opPair{op, next, tree, all})
 				}
 			}
 		}
 	}
-	if count != 17*17 {
-		t.Error(count, "pairs")
+	return l
+}
+
+func TestP7EachOperatorBesideEachOther(t *testing.T) {
+	pairs := opPairs()
+	if len(pairs) != 17*17 {
+		t.Error(len(pairs), "pairs")
+	}
+	for _, x := range pairs {
+		first, second := spelledOp(x.op), spelledOp(x.next)
+		want := exprCase{"a " + first + " b " + second + " c", x.tree, len(codeOf("a " + first + " b"))}
+		if x.all {
+			want.count = len(codeOf(want.text))
+		}
+		left, right := "( a "+first+" b ) "+second+" c", "a "+first+" ( b "+second+" c )"
+		checkExprs(t, impl.Top(), []exprCase{
+			want,
+			{left, "( ( a " + first + " b ) " + second + " c )", len(codeOf(left))},
+			{right, "( a " + first + " ( b " + second + " c ) )", len(codeOf(right))},
+		})
 	}
 }
 
@@ -1550,16 +1565,21 @@ func TestP7TokensInAnyOrder(t *testing.T) {
 	}
 }
 
-// TestP7EachPosition has some texts at all positions, also those that are not valid.
-func TestP7EachPosition(t *testing.T) {
-	t.Parallel()
-	c := newParseCheck()
-	for _, text := range []string{
+// positionTexts has expressions that some positions permit and some do not.
+func positionTexts() []string {
+	return []string{
 		"", "a", "1", "\"s\"", "/r/", "( a )", "x [ a in b > c ]", "&f ( a in b , c > d )", "length", "length ( a > b )", "$ a", "$ ++ a", "$ ( a > b )", "++ a", "-- $ a", "a ++", "$ a --", "- a", "! - a", "+ ++ a",
 		"a ^ b", "a ^ - b", "a * b / c", "a * - b", "a + b - c", "a - ++ b", "a b c", "a ( - b )", "a < b", "a > b", "a >= b > c", "a + b > c", "( a > b ) > c", "a ~ b", "a !~ b > c", "/r/ ~ a > b", "a in b", "a in b in c", "( a , b ) in c",
 		"( a , b > c ) in d", "( ( a , b ) in c )", "( a in b ) in c", "a > b in c", "- a in b", "! a in b > c", "a && b in c", "a > b && c > d", "a || b && c in d", "( a , b ) in c || d", "- a || b", "a ? b : c", "a in b ? c > d : e in f",
 		"a ? b > c : d", "a ? ( b , c ) in d : e", "a = b", "a = b > c", "a = ( b in c ) in d", "$ a = b = c", "$ ++ a = b", "x [ a > b ] += b ? c : d > e", "a = - b", "a = ( b , c ) in d", "a b > c in d && e || f ? g : h = i",
-	} {
+	}
+}
+
+// TestP7EachPosition has some texts at all positions, also those that are not valid.
+func TestP7EachPosition(t *testing.T) {
+	t.Parallel()
+	c := newParseCheck()
+	for _, text := range positionTexts() {
 		l := codeOf(text)
 		for _, p := range somePositions() {
 			c.check(t, l, p)
