@@ -7,6 +7,7 @@ import (
 	"math/rand/v2"
 	"slices"
 	"strings"
+	"sync"
 	"testing"
 
 	"loop.example/g01543/impl"
@@ -77,10 +78,13 @@ func wordKinds() map[string]int {
 	return m
 }
 
+// knownWords is wordKinds, made only once for the many calls of wordsOf.
+var knownWords = sync.OnceValue(wordKinds)
+
 // wordsOf makes the tokens of words between blanks, where &f is the name of a called
 // function.
 func wordsOf(text string) []impl.Token {
-	kinds := wordKinds()
+	kinds := knownWords()
 	var l []impl.Token
 	for _, word := range strings.Fields(text) {
 		kind := kinds[word]

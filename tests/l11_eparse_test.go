@@ -23,7 +23,7 @@ const maxOpenWanted = 40
 
 // ruleWanted is a line of the grammar: its name, the kind of its node (0 for none),
 // and its parts: names of lines, tokens, and names of groups of tokens. A line with
-// a ' starts with a token of BeginsOperand.
+// a ' starts with a token of BeginsOperand, one with !in has no in and one with !> no >.
 type ruleWanted struct {
 	name  string
 	kind  int
@@ -85,6 +85,12 @@ func tokenGroups() map[string][]int {
 			groups[name] = append(groups[name], kinds[word])
 		}
 	}
+	// The other words stand for themselves.
+	for word, kind := range kinds {
+		if len(groups[word]) == 0 && kind != impl.TkBuiltin {
+			groups[word] = []int{kind}
+		}
+	}
 	return groups
 }
 
@@ -117,13 +123,15 @@ type grammar struct {
 	numbers     map[symbol]int
 	productions []production
 	of          [][]int
-	nl          int
+	empty       map[int]bool // symbols with a production without parts
 }
 
 func newGrammar() *grammar {
-	g := &grammar{rules: rulesWanted(), groups: tokenGroups(), numbers: map[symbol]int{}}
-	g.nl = g.number(symbol{name: "nl"})
-	return g
+	return grammarOf(rulesWanted())
+}
+
+func grammarOf(rules []ruleWanted) *grammar {
+	return &grammar{rules: rules, groups: tokenGroups(), numbers: map[symbol]int{}, empty: map[int]bool{}}
 }
 
 // number returns the number of a symbol.
@@ -141,6 +149,7 @@ func (g *grammar) number(s symbol) int {
 		if parts, ok := g.partsOf(s, rule.parts); ok {
 			g.productions = append(g.productions, production{n, rule.kind, parts})
 			g.of[n] = append(g.of[n], len(g.productions)-1)
+			g.empty[n] = g.empty[n] || len(parts) == 0
 		}
 	}
 	return n
@@ -159,10 +168,12 @@ func (g *grammar) partsOf(s symbol, text string) ([]part, bool) {
 			}
 			parts = append(parts, part{-1, tokenSet(group, s.noSign && i == 0)})
 		} else {
-			name, word := strings.CutSuffix(word, "'")
-			inner := symbol{name: name, noSign: word || i == 0 && s.noSign}
+			name, noSign := strings.CutSuffix(word, "'")
+			name, noIn := strings.CutSuffix(name, "!in")
+			name, noGt := strings.CutSuffix(name, "!>")
+			inner := symbol{name: name, noIn: noIn, noGt: noGt, noSign: noSign || i == 0 && s.noSign}
 			if !inside && name != "nl" {
-				inner.noIn, inner.noGt = s.noIn, s.noGt
+				inner.noIn, inner.noGt = noIn || s.noIn, noGt || s.noGt
 			}
 			parts = append(parts, part{symbol: g.number(inner)})
 		}
@@ -212,7 +223,12 @@ type chart struct {
 }
 
 func newChart(g *grammar, p impl.Pos) chart {
-	c := chart{g: g, start: g.startOf(p)}
+	return chartFrom(g, g.startOf(p))
+}
+
+// chartFrom is the chart of no tokens for a symbol.
+func chartFrom(g *grammar, start int) chart {
+	c := chart{g: g, start: start}
 	var items []item
 	for _, i := range g.of[c.start] {
 		items = append(items, item{i, 0, 0})
@@ -253,8 +269,7 @@ func (c chart) closed(items []item) *column {
 			for _, i := range c.g.of[want] {
 				add(item{i, 0, here})
 			}
-			// This one may be empty.
-			if want == c.g.nl {
+			if c.g.empty[want] {
 				add(item{x.production, x.dot + 1, x.from})
 			}
 		}
@@ -294,8 +309,23 @@ func (c chart) viable() bool {
 	return len(c.columns[len(c.columns)-1].items) > 0
 }
 
-// derivation is what a symbol has for nodes: several trees for a list.
-type derivation [][]impl.Node
+// twig is a node with its kids, and the tokens from and up to which it was derived.
+type twig struct {
+	node     impl.Node
+	from, to int
+	kids     []twig
+}
+
+func (x twig) tree() []impl.Node {
+	var kids [][]impl.Node
+	for _, kid := range x.kids {
+		kids = append(kids, kid.tree())
+	}
+	return joined(x.node, kids...)
+}
+
+// derivation is what a symbol has for nodes: several ones for a list.
+type derivation []twig
 
 // trees returns the trees of all derivations of all the tokens.
 func (c chart) trees() []derivation {
@@ -315,7 +345,7 @@ func (c chart) derivations(s, from, to int, known map[[3]int][]derivation) []der
 				continue
 			}
 			for _, kids := range c.partial(item{i, len(rule.parts), from}, to, known) {
-				l = append(l, kids.made(rule.kind))
+				l = append(l, kids.made(rule.kind, from, to))
 			}
 		}
 	}
@@ -357,8 +387,9 @@ func (c chart) partial(x item, to int, known map[[3]int][]derivation) []pieces {
 	return l
 }
 
-// made returns the tree of a node of this kind, or the trees alone for no node.
-func (p pieces) made(kind int) derivation {
+// made returns a node of this kind, derived from these tokens, with its kids, or the
+// kids alone for no node.
+func (p pieces) made(kind, from, to int) derivation {
 	if kind == 0 {
 		return p.nodes
 	}
@@ -374,7 +405,10 @@ func (p pieces) made(kind int) derivation {
 			n.Op = t.Kind
 		}
 	}
-	return derivation{joined(n, p.nodes...)}
+	if kind > impl.ENone {
+		n = p.headOf(n)
+	}
+	return derivation{{n, from, to, p.nodes}}
 }
 
 // parseWanted is what ParseExpr should return.
@@ -441,7 +475,7 @@ func (c chart) result(t *testing.T) parseWanted {
 	case 0:
 		return faultOf(impl.FtSyntax, offsetWanted(c.l, len(known.l)))
 	case 1:
-		return sized(trees[0][0], len(known.l))
+		return sized(trees[0][0].tree(), len(known.l))
 	}
 	t.Errorf("%q has %d derivations", textOf(known.l), len(trees))
 	return parseWanted{}
@@ -1363,8 +1397,9 @@ func (s *sentences) tokenOf(x part) impl.Token {
 	}
 }
 
-// derived returns the tokens and the trees of a random derivation.
-func (s *sentences) derived(symbol int) ([]impl.Token, derivation) {
+// derived returns the tokens and the nodes of a random derivation that begins at a
+// token.
+func (s *sentences) derived(symbol, from int) ([]impl.Token, derivation) {
 	rules := s.g.of[symbol]
 	i := rules[s.random.IntN(len(rules))]
 	for s.heights[i] == 0 || s.left <= 0 && s.heights[i] > s.lowest[symbol] {
@@ -1380,12 +1415,12 @@ func (s *sentences) derived(symbol int) ([]impl.Token, derivation) {
 			tokens = append(tokens, token)
 			kids.tokens = append(kids.tokens, token)
 		} else {
-			l, trees := s.derived(x.symbol)
+			l, nodes := s.derived(x.symbol, from+len(tokens))
 			tokens = append(tokens, l...)
-			kids.nodes = append(kids.nodes, trees...)
+			kids.nodes = append(kids.nodes, nodes...)
 		}
 	}
-	return tokens, kids.made(rule.kind)
+	return tokens, kids.made(rule.kind, from, from+len(tokens))
 }
 
 // readsLength reports whether no parenthesis follows a length alone.
@@ -1411,12 +1446,12 @@ func TestP7RandomDerivations(t *testing.T) {
 	for round := range 8000 {
 		p := positions[random.IntN(len(positions))]
 		s.left = round % 50
-		l, trees := s.derived(c.g.startOf(p))
+		l, nodes := s.derived(c.g.startOf(p), 0)
 		if !c.lex.okWanted(c.tokens, l) || !readsLength(l) || nestWanted(l) >= 0 {
 			continue
 		}
 		l = placed(l)
-		want := sized(trees[0], len(l))
+		want := sized(nodes[0].tree(), len(l))
 		checkParse(t, l, p, want)
 		if want.fault == (impl.Fault{}) {
 			accepted++

@@ -66,7 +66,7 @@ func (c chart) onlyTree(t *testing.T) []impl.Node {
 	case 0:
 		return nil
 	case 1:
-		return trees[0][0]
+		return trees[0][0].tree()
 	}
 	t.Errorf("%q has several derivations", textOf(c.l))
 	return nil
@@ -646,11 +646,11 @@ func TestP7DerivesRandomDerivations(t *testing.T) {
 	for round := range 12000 {
 		p := positions[random.IntN(len(positions))]
 		s.left = round % 60
-		l, trees := s.derived(c.parse.g.startOf(p))
+		l, nodes := s.derived(c.parse.g.startOf(p), 0)
 		if !readsLength(l) {
 			continue
 		}
-		x := trees[0]
+		x := nodes[0].tree()
 		want := len(l) <= maxDerivedWanted && !hasComment(l) && nestWanted(l) < 0 && c.parse.lex.okWanted(c.parse.tokens, l) && c.right.exprWanted(x)
 		checkDerives(t, l, x, p, want)
 		checkDerives(t, l, last, p, want && sameNodes(last, x))
