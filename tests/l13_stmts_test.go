@@ -337,8 +337,11 @@ func (w *programWriter) newline() {
 	w.add(impl.Token{Kind: impl.TkNewline, Text: "\n"})
 }
 
+// comment writes a comment that is unlike all others, with bytes of all sorts.
 func (w *programWriter) comment() {
-	text := "#" + strings.Repeat("c", w.count%3) + impl.Dec(w.count)
+	starts := []string{"#", "##", "# ", "#\t\"", "#/", "#\\", "#\xff\x00", "# it's {", "#; }"}
+	ends := []string{"", "  ", "\\", "\"", "\r", "\t", " # and"}
+	text := starts[w.count%len(starts)] + impl.Dec(w.count) + ends[w.count%len(ends)]
 	w.count++
 	w.noted = append(w.noted, text)
 	w.add(impl.Token{Kind: impl.TkComment, Text: text})
@@ -727,6 +730,19 @@ func TestP10LongerLines(t *testing.T) {
 	}
 }
 
+// withNotes is the tree of a program with comments behind all its items.
+func withNotes(l []impl.Node, texts ...string) []impl.Node {
+	root := l[len(l)-1]
+	var kids [][]impl.Node
+	for _, kid := range root.Kids {
+		kids = append(kids, partOf(l, kid))
+	}
+	for _, text := range texts {
+		kids = append(kids, single(impl.SComment, text))
+	}
+	return joined(root, kids...)
+}
+
 // checkEnd checks that newlines, semicolons and comments behind a program change
 // nothing but its comments.
 func checkEnd(t *testing.T, l []impl.Token, want parseWanted, behind string) {
@@ -735,17 +751,13 @@ func checkEnd(t *testing.T, l []impl.Token, want parseWanted, behind string) {
 		return
 	}
 	longer := placed(append(slices.Clone(l), codeOf(behind)...))
-	root := want.tree[len(want.tree)-1]
-	var kids [][]impl.Node
-	for _, kid := range root.Kids {
-		kids = append(kids, partOf(want.tree, kid))
-	}
+	var notes []string
 	for _, word := range strings.Fields(behind) {
 		if word[0] == '#' {
-			kids = append(kids, single(impl.SComment, word))
+			notes = append(notes, word)
 		}
 	}
-	checkProgram(t, longer, sized(joined(root, kids...), 0))
+	checkProgram(t, longer, sized(withNotes(want.tree, notes...), 0))
 }
 
 func TestP10BehindTheLastItem(t *testing.T) {
