@@ -79,9 +79,9 @@ func trees(n int) []*branch {
 	return all
 }
 
-// shapeWalk visits a list from its last node; see shapeWanted.
+// shapeWalk visits a list of nodes with these kids from its last node; see orderWanted.
 type shapeWalk struct {
-	l     []impl.Node
+	kids  [][]int
 	order []int
 	steps int
 }
@@ -90,10 +90,10 @@ type shapeWalk struct {
 // without more visits than there are nodes.
 func (w *shapeWalk) visit(i int) bool {
 	w.steps++
-	if i < 0 || i >= len(w.l) || w.steps > len(w.l) {
+	if i < 0 || i >= len(w.kids) || w.steps > len(w.kids) {
 		return false
 	}
-	for _, kid := range w.l[i].Kids {
+	for _, kid := range w.kids[i] {
 		if !w.visit(kid) {
 			return false
 		}
@@ -102,14 +102,14 @@ func (w *shapeWalk) visit(i int) bool {
 	return true
 }
 
-// shapeWanted is the document's definition, written once more: whoever visits the
+// orderWanted is the document's definition, written once more: whoever visits the
 // tree from its last node in postorder meets the nodes of the list in their order.
-func shapeWanted(l []impl.Node) bool {
-	if len(l) < 1 || len(l) > maxNodesWanted {
+func orderWanted(kids [][]int, most int) bool {
+	if len(kids) < 1 || len(kids) > most {
 		return false
 	}
-	w := shapeWalk{l: l}
-	if !w.visit(len(l)-1) || len(w.order) != len(l) {
+	w := shapeWalk{kids: kids}
+	if !w.visit(len(kids)-1) || len(w.order) != len(kids) {
 		return false
 	}
 	for place, i := range w.order {
@@ -118,6 +118,14 @@ func shapeWanted(l []impl.Node) bool {
 		}
 	}
 	return true
+}
+
+func shapeWanted(l []impl.Node) bool {
+	var kids [][]int
+	for _, n := range l {
+		kids = append(kids, n.Kids)
+	}
+	return orderWanted(kids, maxNodesWanted)
 }
 
 // nodesShown is a list of nodes such as (2) 1:0:"x":"":[] 11:56:"":"":[0], cut off after some.
@@ -327,11 +335,14 @@ func TestP5ShapeExamples(t *testing.T) {
 	}
 }
 
-func TestP5ShapeInvalid(t *testing.T) {
-	for _, x := range []struct {
-		name string
-		l    []impl.Node
-	}{
+// shapeCase is a list of nodes that has no valid shape, and why.
+type shapeCase struct {
+	name string
+	l    []impl.Node
+}
+
+func invalidShapes() []shapeCase {
+	return []shapeCase{
 		{"no nodes", nil},
 		{"no nodes", []impl.Node{}},
 		{"its own kid", kidLists([]int{0})},
@@ -376,7 +387,11 @@ func TestP5ShapeInvalid(t *testing.T) {
 		{"the kid of two", kidLists(nil, nil, []int{0, 1}, []int{0, 2})},
 		{"a kid's kid is wrong", kidLists(nil, []int{}, []int{0}, []int{1, 2})},
 		{"a kid's kid is wrong", kidLists([]int{-1}, []int{0})},
-	} {
+	}
+}
+
+func TestP5ShapeInvalid(t *testing.T) {
+	for _, x := range invalidShapes() {
 		if shapeWanted(x.l) {
 			t.Errorf("%s: the shape is valid", x.name)
 		}
@@ -419,16 +434,21 @@ func eachList(choices [][][]int, check func(l []impl.Node)) {
 	choose(0)
 }
 
-// TestP5ShapesOfShortLists finds the valid shapes among all short lists: exactly
-// those that come from a tree with pointers.
-func TestP5ShapesOfShortLists(t *testing.T) {
-	for _, choices := range [][][][]int{
+// shortLists has choices of kids for each node of some short lists; see eachList.
+func shortLists() [][][][]int {
+	return [][][][]int{
 		{kidChoices(-3, 3, 4)},
 		{kidChoices(-2, 3, 3), kidChoices(-2, 3, 4)},
 		{kidChoices(-1, 3, 2), kidChoices(-1, 3, 2), kidChoices(-1, 3, 3)},
 		{kidChoices(0, 1, 1), kidChoices(0, 3, 2), kidChoices(0, 3, 2), kidChoices(-1, 3, 3)},
 		{kidChoices(0, 0, 0), kidChoices(0, 1, 1), kidChoices(0, 2, 2), kidChoices(0, 3, 3), kidChoices(0, 3, 4)},
-	} {
+	}
+}
+
+// TestP5ShapesOfShortLists finds the valid shapes among all short lists: exactly
+// those that come from a tree with pointers.
+func TestP5ShapesOfShortLists(t *testing.T) {
+	for _, choices := range shortLists() {
 		var want [][]impl.Node
 		for _, b := range trees(len(choices)) {
 			l, _ := b.postorder(nil, nil)
